@@ -6,6 +6,7 @@ import (
 	"strings"
 
 	"sequent/api"
+	"sequent/bag"
 )
 
 // Check tells the first fault of f, node by node.
@@ -60,8 +61,7 @@ func Parts(f api.Formula) ([]api.Formula, api.Fault) {
 	}
 	var parts []api.Formula
 	eachNode(f, func(n api.Formula) {
-		isThis := func(p api.Formula) bool { return same(p, n) }
-		if !slices.ContainsFunc(parts, isThis) {
+		if !bag.Has(parts, n) {
 			parts = append(parts, copyOf(n))
 		}
 	})

@@ -1,7 +1,6 @@
 package formula
 
 import (
-	"slices"
 	"strings"
 
 	"sequent/api"
@@ -36,10 +35,6 @@ func sizeWith(f api.Formula, name string, nodes int) int {
 
 func hasName(f api.Formula, name string) bool {
 	return f.Kind == api.FVar && f.Name == name
-}
-
-func same(f, g api.Formula) bool {
-	return f.Kind == g.Kind && f.Name == g.Name && slices.EqualFunc(f.Kids, g.Kids, same)
 }
 
 func copyOf(f api.Formula) api.Formula {
