@@ -156,8 +156,8 @@ func doubled(kind, times int, f api.Formula) api.Formula {
 	return f
 }
 
-// TestLongProofs: the longest that are known come of formulas that are joined with themselves.
-func TestLongProofs(t *testing.T) {
+// TestDoubledSides: formulas that are joined with themselves have as many branches as they have names.
+func TestDoubledSides(t *testing.T) {
 	p := name("p")
 	for or := range 7 {
 		for and := range 7 {
@@ -171,6 +171,28 @@ func TestLongProofs(t *testing.T) {
 				t.Errorf("%s: %v, %d steps", told(s), valid, steps)
 			}
 		}
+	}
+}
+
+// TestLongProofs: in the longest that are known of so many parts (a search for longer ones found none) each branch needs all others again.
+func TestLongProofs(t *testing.T) {
+	either := read(t, "p | ~p")
+	for times, most := range []int{12, 30, 90, 260, 900, 3400} {
+		all := doubled(api.FAnd, times, either)
+		for _, s := range []api.Sequent{
+			{Left: []api.Formula{node(api.FThen, all, nots(1, name("p")))}, Right: []api.Formula{all}},
+			{Left: []api.Formula{nots(1, all)}, Right: []api.Formula{name("p")}},
+		} {
+			proof, _, valid := proved(t, s)
+			if steps, _ := size(proof); !valid || steps > most {
+				t.Errorf("%s: %v, %d steps", told(s), valid, steps)
+			}
+		}
+	}
+	s := api.Sequent{Left: []api.Formula{nots(1, node(api.FAnd, doubled(api.FAnd, 3, either), doubled(api.FAnd, 5, either)))}, Right: []api.Formula{name("p")}}
+	proof, _, valid := proved(t, s)
+	if steps, _ := size(proof); !valid || steps > 6000 {
+		t.Errorf("%s: %v, %d steps", told(s), valid, steps)
 	}
 }
 
