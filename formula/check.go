@@ -1,6 +1,9 @@
 package formula
 
-import "sequent/api"
+import (
+	"sequent/api"
+	"sequent/stop"
+)
 
 const longestName = 8
 
@@ -13,7 +16,7 @@ type checker struct {
 func (c *checker) look(f api.Formula) {
 	at := c.seen
 	if at == api.MaxNodes {
-		stopAt(api.ErrMany, 0)
+		stop.At(api.ErrMany, 0)
 	}
 	c.seen++
 	checkNode(f, at)
@@ -25,13 +28,13 @@ func (c *checker) look(f api.Formula) {
 func checkNode(f api.Formula, at int) {
 	kids, known := kidsOf(f.Kind)
 	if !known {
-		stopAt(api.ErrKind, at)
+		stop.At(api.ErrKind, at)
 	}
 	if len(f.Kids) != kids {
-		stopAt(api.ErrSize, at)
+		stop.At(api.ErrSize, at)
 	}
 	if f.Kind == api.FVar && !isName(f.Name) || f.Kind != api.FVar && f.Name != "" {
-		stopAt(api.ErrName, at)
+		stop.At(api.ErrName, at)
 	}
 }
 

@@ -7,11 +7,12 @@ import (
 
 	"sequent/api"
 	"sequent/bag"
+	"sequent/stop"
 )
 
 // Check tells the first fault of f, node by node.
 func Check(f api.Formula) api.Fault {
-	return caught(func() {
+	return stop.Caught(func() {
 		c := checker{}
 		c.look(f)
 	})
@@ -22,7 +23,7 @@ func Parse(text string) (f api.Formula, e api.Fault) {
 	if len(text) > api.MaxText {
 		return api.Formula{}, api.Fault{Code: api.ErrMany}
 	}
-	e = caught(func() {
+	e = stop.Caught(func() {
 		r := reader{text: text}
 		f = r.whole()
 	})

@@ -4,6 +4,7 @@ import (
 	"strings"
 
 	"sequent/api"
+	"sequent/stop"
 )
 
 // reader has a method for each line of the grammar; at is the first byte that is not read.
@@ -18,10 +19,10 @@ func (r *reader) whole() api.Formula {
 	f := r.then()
 	r.skipBlanks()
 	if r.at < len(r.text) {
-		stopAt(api.ErrText, r.at)
+		stop.At(api.ErrText, r.at)
 	}
 	if r.nodes > api.MaxNodes {
-		stopAt(api.ErrMany, 0)
+		stop.At(api.ErrMany, 0)
 	}
 	return f
 }
@@ -61,7 +62,7 @@ func (r *reader) not() api.Formula {
 	case r.take("("):
 		f := r.then()
 		if !r.take(")") {
-			stopAt(api.ErrText, r.at)
+			stop.At(api.ErrText, r.at)
 		}
 		return f
 	case r.take("1"):
@@ -77,7 +78,7 @@ func (r *reader) name() api.Formula {
 	rest := r.text[r.at:]
 	name := rest[:lettersAhead(rest)]
 	if !isName(name) {
-		stopAt(api.ErrText, r.at)
+		stop.At(api.ErrText, r.at)
 	}
 	r.at += len(name)
 	f := r.node(api.FVar)

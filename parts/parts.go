@@ -33,6 +33,11 @@ func (t *Table) Number(f api.Formula) int {
 	for i, k := range f.Kids {
 		p.Kids[i] = t.Number(k)
 	}
+	return t.NumberOf(p)
+}
+
+// NumberOf tells the number of the formula that p is, and holds it from then on. It counts on p's Kids to be numbers that the table has told.
+func (t *Table) NumberOf(p Part) int {
 	n, known := t.numbers[p]
 	if !known {
 		n = t.add(p)

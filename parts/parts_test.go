@@ -40,6 +40,20 @@ func TestTheSameFormulaHasTheSameNumber(t *testing.T) {
 	}
 }
 
+// TestNumbersOfParts: a formula that is put together of numbers is the one that was numbered, or a new one.
+func TestNumbersOfParts(t *testing.T) {
+	table := parts.New()
+	p, q := table.Number(read(t, "p")), table.NumberOf(parts.Part{Kind: api.FVar, Name: "q"})
+	and := table.NumberOf(parts.Part{Kind: api.FAnd, Count: 2, Kids: [2]int{p, q}})
+	if n := table.Len(); n != 3 || table.Number(read(t, "p & q")) != and || table.Number(read(t, "q")) != q || table.Len() != n {
+		t.Errorf("%d parts", table.Len())
+	}
+	not := table.NumberOf(parts.Part{Kind: api.FNot, Count: 1, Kids: [2]int{and}})
+	if f := table.Formula(not); not != 3 || table.Nodes(not) != 4 || !reflect.DeepEqual(f, read(t, "~(p & q)")) {
+		t.Errorf("%d, %v", not, f)
+	}
+}
+
 // TestNumbersOfNodes: all that stands at nodes is held, each once, and that in a formula is ahead of it.
 func TestNumbersOfNodes(t *testing.T) {
 	for _, text := range []string{"p", "~~~p", "p & q -> ~(p & q) | 0", "[](p -> q) -> []p -> []q", "1 | 1 & 1 | 1"} {
