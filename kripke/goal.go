@@ -3,6 +3,7 @@ package kripke
 import (
 	"sequent/api"
 	"sequent/parts"
+	"sequent/set"
 )
 
 // nothing stands for the part at the Right where there is none: no part has this number.
@@ -10,7 +11,7 @@ const nothing = api.MaxSubs
 
 // goal is a sequent of parts, by their numbers. How often one is at the Left does not matter for whether there is a proof, as contr-l and weak make it more and less often.
 type goal struct {
-	left  set
+	left  set.Set
 	right int
 }
 
@@ -22,7 +23,7 @@ type premise struct {
 
 // over is the goal that a premise makes of g: whatever was at the Left stays, as it can do no harm.
 func (g goal) over(p premise) goal {
-	return goal{left: g.left.with(p.adds...), right: p.right}
+	return goal{left: g.left.With(p.adds...), right: p.right}
 }
 
 // way is how a goal comes of others, by a rule that speaks of a part.
@@ -39,7 +40,7 @@ func waysTo(g goal, table *parts.Table) []way {
 		return []way{w}
 	}
 	var ways []way
-	for _, n := range g.left.members(table.Len()) {
+	for _, n := range g.left.Members(table.Len()) {
 		ways = append(ways, waysAtLeft(n, table.Part(n), g.right)...)
 	}
 	if g.right != nothing {
@@ -49,13 +50,13 @@ func waysTo(g goal, table *parts.Table) []way {
 }
 
 func closing(g goal, table *parts.Table) (w way, found bool) {
-	if g.right != nothing && g.left.has(g.right) {
+	if g.right != nothing && g.left.Has(g.right) {
 		return way{rule: "ax", of: g.right, isLeft: true}, true
 	}
 	if g.right != nothing && table.Part(g.right).Kind == api.FTrue {
 		return way{rule: "true", of: g.right}, true
 	}
-	for _, n := range g.left.members(table.Len()) {
+	for _, n := range g.left.Members(table.Len()) {
 		if table.Part(n).Kind == api.FFalse {
 			return way{rule: "false", of: n, isLeft: true}, true
 		}

@@ -5,6 +5,7 @@ import (
 
 	"sequent/api"
 	"sequent/parts"
+	"sequent/set"
 )
 
 // mostAlong is how many formulas may be at the Left of a step with premises: where there are more, those that are not needed go first. A step adds two at most, one of them by contr-l, so that no sequent comes near the 60 formulas of layer 3.
@@ -15,7 +16,7 @@ const mostAlong = 20
 // plan is a step of a proof, for any sequent that has what it needs at the Left.
 type plan struct {
 	way   way
-	needs set
+	needs set.Set
 	kids  []plan
 }
 
@@ -24,19 +25,19 @@ func (f *finder) planOf(g goal) plan {
 	w, _, _ := f.shortest(g, f.ways[g])
 	p := plan{way: w}
 	if w.isLeft {
-		p.needs = setOf(w.of)
+		p.needs = set.Of(w.of)
 	}
 	for _, premise := range w.premises {
 		kid := f.planOf(g.over(premise))
 		p.kids = append(p.kids, kid)
-		p.needs |= kid.needs.without(setOf(premise.adds...))
+		p.needs |= kid.needs.Without(set.Of(premise.adds...))
 	}
 	return p
 }
 
 // isNeededAgain: does some premise need the part that the step takes from the Left?
 func (p plan) isNeededAgain() bool {
-	needsIt := func(kid plan) bool { return kid.needs.has(p.way.of) }
+	needsIt := func(kid plan) bool { return kid.needs.Has(p.way.of) }
 	return p.way.isLeft && slices.ContainsFunc(p.kids, needsIt)
 }
 
@@ -59,7 +60,7 @@ type writer struct {
 // write makes p a proof of a sequent that has all that p needs.
 func (w *writer) write(p plan, left []int, right int) api.Proof {
 	if len(left) > mostAlong && len(p.kids) > 0 {
-		needed := p.needs.members(w.table.Len())
+		needed := p.needs.Members(w.table.Len())
 		return w.step("weak", api.Formula{}, left, right, w.write(p, needed, right))
 	}
 	isIt := func(n int) bool { return n == p.way.of }
