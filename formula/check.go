@@ -52,14 +52,15 @@ func kidsOf(kind int) (kids int, known bool) {
 }
 
 func isName(s string) bool {
-	return s != "" && len(s) <= longestName && lettersAhead(s) == len(s)
+	if s == "" || len(s) > longestName {
+		return false
+	}
+	for i := range len(s) {
+		if !isLetter(s[i]) {
+			return false
+		}
+	}
+	return true
 }
 
-// lettersAhead counts the small letters with which s begins.
-func lettersAhead(s string) int {
-	n := 0
-	for n < len(s) && 'a' <= s[n] && s[n] <= 'z' {
-		n++
-	}
-	return n
-}
+func isLetter(c byte) bool { return 'a' <= c && c <= 'z' }

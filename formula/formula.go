@@ -7,6 +7,7 @@ import (
 
 	"sequent/api"
 	"sequent/bag"
+	"sequent/scan"
 	"sequent/stop"
 )
 
@@ -24,7 +25,7 @@ func Parse(text string) (f api.Formula, e api.Fault) {
 		return api.Formula{}, api.Fault{Code: api.ErrMany}
 	}
 	e = stop.Caught(func() {
-		r := reader{text: text}
+		r := reader{Text: scan.New(text)}
 		f = r.whole()
 	})
 	return f, e

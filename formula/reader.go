@@ -1,26 +1,21 @@
 package formula
 
 import (
-	"strings"
-
 	"sequent/api"
+	"sequent/scan"
 	"sequent/stop"
 )
 
-// reader has a method for each line of the grammar; at is the first byte that is not read.
+// reader has a method for each line of the grammar.
 type reader struct {
-	text  string
-	at    int
+	scan.Text
 	nodes int
 }
 
 // whole counts nodes last: a fault of the text goes ahead of too many of them.
 func (r *reader) whole() api.Formula {
 	f := r.then()
-	r.skipBlanks()
-	if r.at < len(r.text) {
-		stop.At(api.ErrText, r.at)
-	}
+	r.End()
 	if r.nodes > api.MaxNodes {
 		stop.At(api.ErrMany, 0)
 	}
@@ -29,7 +24,7 @@ func (r *reader) whole() api.Formula {
 
 func (r *reader) then() api.Formula {
 	left := r.or()
-	if !r.take("->") {
+	if !r.Take("->") {
 		return left
 	}
 	return r.node(api.FThen, left, r.then())
@@ -37,7 +32,7 @@ func (r *reader) then() api.Formula {
 
 func (r *reader) or() api.Formula {
 	f := r.and()
-	for r.take("|") {
+	for r.Take("|") {
 		f = r.node(api.FOr, f, r.and())
 	}
 	return f
@@ -45,7 +40,7 @@ func (r *reader) or() api.Formula {
 
 func (r *reader) and() api.Formula {
 	f := r.not()
-	for r.take("&") {
+	for r.Take("&") {
 		f = r.node(api.FAnd, f, r.not())
 	}
 	return f
@@ -53,57 +48,31 @@ func (r *reader) and() api.Formula {
 
 func (r *reader) not() api.Formula {
 	switch {
-	case r.take("~"):
+	case r.Take("~"):
 		return r.node(api.FNot, r.not())
-	case r.take("[]"):
+	case r.Take("[]"):
 		return r.node(api.FBox, r.not())
-	case r.take("<>"):
+	case r.Take("<>"):
 		return r.node(api.FDia, r.not())
-	case r.take("("):
+	case r.Take("("):
 		f := r.then()
-		if !r.take(")") {
-			stop.At(api.ErrText, r.at)
-		}
+		r.Need(")")
 		return f
-	case r.take("1"):
+	case r.Take("1"):
 		return r.node(api.FTrue)
-	case r.take("0"):
+	case r.Take("0"):
 		return r.node(api.FFalse)
 	}
 	return r.name()
 }
 
 func (r *reader) name() api.Formula {
-	r.skipBlanks()
-	rest := r.text[r.at:]
-	name := rest[:lettersAhead(rest)]
-	if !isName(name) {
-		stop.At(api.ErrText, r.at)
-	}
-	r.at += len(name)
 	f := r.node(api.FVar)
-	// A piece of the text would keep all of it in memory.
-	f.Name = strings.Clone(name)
+	f.Name = r.Name(isLetter, isName)
 	return f
 }
 
 func (r *reader) node(kind int, kids ...api.Formula) api.Formula {
 	r.nodes++
 	return api.Formula{Kind: kind, Kids: kids}
-}
-
-// take reads the sign, if it is next.
-func (r *reader) take(sign string) bool {
-	r.skipBlanks()
-	if !strings.HasPrefix(r.text[r.at:], sign) {
-		return false
-	}
-	r.at += len(sign)
-	return true
-}
-
-func (r *reader) skipBlanks() {
-	for r.at < len(r.text) && (r.text[r.at] == ' ' || r.text[r.at] == '\n') {
-		r.at++
-	}
 }
