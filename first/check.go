@@ -3,6 +3,7 @@ package first
 import (
 	"sequent/api"
 	"sequent/stop"
+	"sequent/syntax"
 )
 
 // checker looks at nodes, each ahead of those in it. How many places a big name has is kept of predicates and of functions apart.
@@ -33,7 +34,7 @@ func (c *checker) expr(e api.Expr) {
 func (c *checker) word(w api.Word) {
 	at := c.next()
 	checkWord(w, at)
-	if isBig(w.Name) {
+	if syntax.IsBig(w.Name) {
 		checkPlaces(c.functions, w.Name, len(w.Args), at)
 	}
 	for _, a := range w.Args {
@@ -64,10 +65,10 @@ func checkExpr(e api.Expr, at int) {
 }
 
 func checkWord(w api.Word, at int) {
-	if !isVariable(w.Name) && !isBig(w.Name) {
+	if !syntax.IsName(w.Name) {
 		stop.At(api.ErrName, at)
 	}
-	if isVariable(w.Name) && len(w.Args) > 0 {
+	if syntax.IsVariable(w.Name) && len(w.Args) > 0 {
 		stop.At(api.ErrSize, at)
 	}
 }
@@ -106,11 +107,9 @@ func hasItsWords(e api.Expr) bool {
 func hasItsName(e api.Expr) bool {
 	switch {
 	case e.Kind == api.EPred:
-		return isBig(e.Name)
-	case isQuantifier(e.Kind):
-		return isVariable(e.Name)
+		return syntax.IsBig(e.Name)
+	case syntax.IsQuantifier(e.Kind):
+		return syntax.IsVariable(e.Name)
 	}
 	return e.Name == ""
 }
-
-func isQuantifier(kind int) bool { return kind == api.EAll || kind == api.ESome }

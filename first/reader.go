@@ -3,6 +3,7 @@ package first
 import (
 	"sequent/api"
 	"sequent/scan"
+	"sequent/syntax"
 )
 
 // reader has a method for each line of the grammar.
@@ -61,7 +62,7 @@ func (r *reader) not() api.Expr {
 }
 
 func (r *reader) quantified(kind int) api.Expr {
-	name := r.Name(isLetter, isVariable)
+	name := r.Name(syntax.IsLetter, syntax.IsVariable)
 	e := node(kind, r.not())
 	e.Name = name
 	return e
@@ -73,15 +74,15 @@ func (r *reader) ofWords() api.Expr {
 	if r.Take("=") {
 		return api.Expr{Kind: api.ESame, Words: []api.Word{w, r.word()}}
 	}
-	if isVariable(w.Name) {
+	if syntax.IsVariable(w.Name) {
 		r.Wrong()
 	}
 	return api.Expr{Kind: api.EPred, Name: w.Name, Words: w.Args}
 }
 
 func (r *reader) word() api.Word {
-	w := api.Word{Name: r.Name(isLetter, isAnyName)}
-	if isBig(w.Name) && r.Take("(") {
+	w := api.Word{Name: r.Name(syntax.IsLetter, syntax.IsName)}
+	if syntax.IsBig(w.Name) && r.Take("(") {
 		w.Args = r.words()
 	}
 	return w

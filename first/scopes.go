@@ -1,6 +1,9 @@
 package first
 
-import "sequent/api"
+import (
+	"sequent/api"
+	"sequent/syntax"
+)
 
 // scopes has the names that are bound in two expressions, quantifier by quantifier, the innermost last.
 type scopes struct {
@@ -11,7 +14,7 @@ func (s scopes) sameExpr(a, b api.Expr) bool {
 	if a.Kind != b.Kind {
 		return false
 	}
-	if isQuantifier(a.Kind) {
+	if syntax.IsQuantifier(a.Kind) {
 		inner := scopes{append(s.a, a.Name), append(s.b, b.Name)}
 		return inner.sameExpr(a.Kids[0], b.Kids[0])
 	}
