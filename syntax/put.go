@@ -20,10 +20,11 @@ func PutAll(l []api.Word, binds []api.Bind) []api.Word {
 func put(w api.Word, binds []api.Bind) api.Word {
 	for _, b := range slices.Backward(binds) {
 		if b.Name == w.Name {
-			return copyOf(b.Word)
+			return Copy(b.Word)
 		}
 	}
 	return api.Word{Name: strings.Clone(w.Name), Args: PutAll(w.Args, binds)}
 }
 
-func copyOf(w api.Word) api.Word { return put(w, nil) }
+// Copy is the word in new memory.
+func Copy(w api.Word) api.Word { return put(w, nil) }

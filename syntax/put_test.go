@@ -49,3 +49,16 @@ func TestPutWordsAreNewMemory(t *testing.T) {
 		t.Error("memory is shared")
 	}
 }
+
+func TestCopy(t *testing.T) {
+	name := string([]byte("letters"))
+	args := []api.Word{word(name), word("C")}
+	w := word("F", args...)
+	got := syntax.Copy(w)
+	if !reflect.DeepEqual(got, w) {
+		t.Errorf("%v, want %v", got, w)
+	}
+	if &got.Args[0] == &args[0] || unsafe.StringData(got.Args[0].Name) == unsafe.StringData(name) {
+		t.Error("memory is shared")
+	}
+}
