@@ -68,7 +68,7 @@ func checkWord(w api.Word, at int) {
 	if !syntax.IsName(w.Name) {
 		stop.At(api.ErrName, at)
 	}
-	if syntax.IsVariable(w.Name) && len(w.Args) > 0 {
+	if len(w.Args) > 0 && syntax.IsVariable(w.Name) {
 		stop.At(api.ErrSize, at)
 	}
 }

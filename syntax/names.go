@@ -28,8 +28,8 @@ func IsBig(s string) bool {
 	return true
 }
 
-// IsName tells whether s may be a word's.
-func IsName(s string) bool { return IsVariable(s) || IsBig(s) }
+// IsName tells whether s may be a word's. What is a big name is found out sooner.
+func IsName(s string) bool { return IsBig(s) || IsVariable(s) }
 
 // IsLetter tells whether c may stand in a name.
 func IsLetter(c byte) bool { return isCapital(c) || 'a' <= c && c <= 'z' }

@@ -6,6 +6,7 @@ import (
 
 	"sequent/api"
 	"sequent/syntax"
+	"sequent/words"
 )
 
 // matcher has the words that variables stand for. They are never looked up in each other: what stands in them is not of the side whose variables these are.
@@ -24,14 +25,14 @@ func (m matcher) word(a, b api.Word) {
 		return
 	}
 	if a.Name != b.Name || len(a.Args) != len(b.Args) {
-		clash()
+		words.Clash()
 	}
 	m.words(a.Args, b.Args)
 }
 
 func (m matcher) bind(name string, w api.Word) {
 	if was, known := m[name]; known && !isSame(was, w) {
-		clash()
+		words.Clash()
 	}
 	m[name] = w
 }
