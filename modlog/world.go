@@ -2,7 +2,6 @@ package modlog
 
 import (
 	"cmp"
-	"math/bits"
 	"slices"
 
 	"sequent/api"
@@ -25,11 +24,9 @@ func worldsOf(table *parts.Table) []world {
 			l = append(l, worldOf(has, table))
 		}
 	}
-	slices.SortStableFunc(l, func(a, b world) int { return cmp.Compare(size(a.wants), size(b.wants)) })
+	slices.SortStableFunc(l, func(a, b world) int { return cmp.Compare(a.wants.Len(), b.wants.Len()) })
 	return l
 }
-
-func size(s set.Set) int { return bits.OnesCount64(uint64(s)) }
 
 // isWhole: is each part in has just if its Kids make it true?
 func isWhole(has set.Set, table *parts.Table) bool {

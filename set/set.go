@@ -1,6 +1,8 @@
 // Package set has sets of small numbers, each in one word, for the layers that go through many of them.
 package set
 
+import "math/bits"
+
 // Set has the numbers from 0 to 63 whose binary digits in it are 1.
 type Set uint64
 
@@ -30,6 +32,12 @@ func (s Set) Without(others Set) Set { return s &^ others }
 
 // IsWithin: is all of s in whole?
 func (s Set) IsWithin(whole Set) bool { return s.Without(whole) == 0 }
+
+// Len is how many numbers s has.
+func (s Set) Len() int { return bits.OnesCount64(uint64(s)) }
+
+// Lowest is the lowest number of s, or 64, if it has none.
+func (s Set) Lowest() int { return bits.TrailingZeros64(uint64(s)) }
 
 // Members are those of s below n, rising.
 func (s Set) Members(n int) []int {

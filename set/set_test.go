@@ -23,8 +23,11 @@ func TestOf(t *testing.T) {
 		{set.Below(1), []int{0}},
 		{set.Below(4), []int{0, 1, 2, 3}},
 	} {
-		if l := c.s.Members(64); !slices.Equal(l, c.want) {
-			t.Errorf("%b has %v, want %v", c.s, l, c.want)
+		if l := c.s.Members(64); !slices.Equal(l, c.want) || c.s.Len() != len(c.want) {
+			t.Errorf("%b has %d, %v, want %v", c.s, c.s.Len(), l, c.want)
+		}
+		if lowest := append(slices.Clone(c.want), 64)[0]; c.s.Lowest() != lowest {
+			t.Errorf("%b: lowest %d, want %d", c.s, c.s.Lowest(), lowest)
 		}
 		for n := range 64 {
 			if c.s.Has(n) != slices.Contains(c.want, n) {
